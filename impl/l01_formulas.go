@@ -101,15 +101,21 @@ func DualOf(f []int64) []int64 {
 	if !ValidForm(f) {
 		return nil
 	}
-	dual := make([]int64, len(f))
-	for i, symbol := range f {
+	dual := slices.Clone(f)
+	dualise(dual)
+	return dual
+}
+
+// dualise replaces a formula by its dual. It has no limit of symbols, because the texts of
+// chapter 2 can be longer than a valid formula.
+func dualise(symbols []int64) {
+	for i, symbol := range symbols {
 		if isLeaf(symbol) {
-			dual[i] = -symbol
+			symbols[i] = -symbol
 		} else {
-			dual[i] = dualOperators[symbol]
+			symbols[i] = dualOperators[symbol]
 		}
 	}
-	return dual
 }
 
 // OperatorOf returns the first symbol of a formula if it is an operator, and 0 if it is an atom

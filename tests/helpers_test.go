@@ -19,6 +19,9 @@ var oddSymbols = []int64{
 // oddIndices are indices that no formula has.
 var oddIndices = []int64{-1, -2, 24, 25, 1 << 32, -1 << 32, math.MaxInt64, math.MinInt64}
 
+// operatorSigns are the signs of the operators in texts.
+var operatorSigns = map[int64]string{11: "*", 12: "|", 13: "1", 14: "_", 15: "+", 16: "&", 17: "!", 18: "?"}
+
 // tree is a formula as the tests see it, so that expected values do not depend on the program.
 type tree struct {
 	symbol int64
@@ -71,6 +74,30 @@ func (t tree) fragment() int64 {
 		sum |= kid.fragment()
 	}
 	return sum
+}
+
+// text is the text of the formula, in which no space and no other sign is superfluous.
+func (t tree) text() string {
+	switch {
+	case len(t.kids) == 2:
+		return "(" + t.kids[0].text() + operatorSigns[t.symbol] + t.kids[1].text() + ")"
+	case len(t.kids) == 1:
+		return operatorSigns[t.symbol] + t.kids[0].text()
+	case t.symbol < 0:
+		return "~" + string(rune('A'-1-t.symbol))
+	case t.symbol <= 8:
+		return string(rune('A' - 1 + t.symbol))
+	}
+	return operatorSigns[t.symbol]
+}
+
+// parts returns the formulas that occur in t, each as often as it occurs.
+func (t tree) parts() []tree {
+	out := []tree{t}
+	for _, kid := range t.kids {
+		out = append(out, kid.parts()...)
+	}
+	return out
 }
 
 func leaf(symbol int64) tree { return tree{symbol: symbol} }
@@ -211,6 +238,31 @@ func overwrite(list []int64) {
 	whole := list[:cap(list)]
 	for i := range whole {
 		whole[i] = -555
+	}
+}
+
+// checkUnshared calls functions of one formula, and fails if one changes the formula, shares memory with it or keeps it.
+func checkUnshared(t *testing.T, calls map[string]func([]int64) []int64) {
+	t.Helper()
+	lists := invalidLists()
+	for _, tr := range someTrees() {
+		lists = append(lists, tr.list())
+	}
+	for name, call := range calls {
+		for _, list := range lists {
+			f, changed := guarded(list)
+			got := call(f)
+			if changed() {
+				t.Fatal(name, "changes its argument", list)
+			}
+			overwrite(got)
+			if changed() {
+				t.Fatal(name, "shares memory with its argument", list)
+			}
+			if !slices.Equal(call(f), call(slices.Clone(list))) {
+				t.Fatal(name, "depends on the capacity or keeps a result", list)
+			}
+		}
 	}
 }
 

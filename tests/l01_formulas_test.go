@@ -318,26 +318,7 @@ func onFormula() map[string]func([]int64) []int64 {
 }
 
 func TestArgumentsUnchangedAndUnshared(t *testing.T) {
-	lists := invalidLists()
-	for _, tr := range someTrees() {
-		lists = append(lists, tr.list())
-	}
-	for name, call := range onFormula() {
-		for _, list := range lists {
-			f, changed := guarded(list)
-			got := call(f)
-			if changed() {
-				t.Fatal(name, "changes its argument", list)
-			}
-			overwrite(got)
-			if changed() {
-				t.Fatal(name, "shares memory with its argument", list)
-			}
-			if !slices.Equal(call(f), call(slices.Clone(list))) {
-				t.Fatal(name, "depends on the capacity or keeps a result", list)
-			}
-		}
-	}
+	checkUnshared(t, onFormula())
 }
 
 // The two operands of Joined are checked with different lists, and results of two calls with each other.
