@@ -1,6 +1,7 @@
 package tests
 
 import (
+	"fmt"
 	"math"
 	"slices"
 	"testing"
@@ -578,24 +579,26 @@ func checkSeqsUnshared(t *testing.T, list []impl.Step, changed func() bool) {
 	}
 }
 
-// checkPartUnshared overwrites each slice of what SubProof returns; nothing else changes then.
-func checkPartUnshared(t *testing.T, list []impl.Step, k int64, changed func() bool) {
+// checkStepsUnshared overwrites each slice of what a call returns; nothing else changes then.
+func checkStepsUnshared(t *testing.T, what string, call func() ([]impl.Step, bool), want []impl.Step, changed func() bool) {
 	t.Helper()
-	want := partOf(list, k)
 	for n := range want {
-		got, _ := impl.SubProof(list, k)
+		got, ok := call()
+		if !ok || !sameSteps(got, want) || changed() {
+			t.Fatalf("%s = %v with%s\ninstead of%s", what, ok, describe(got), describe(want))
+		}
 		overwrite(got[n].Form)
 		got[n].Form = want[n].Form
 		if changed() || !sameSteps(got, want) {
-			t.Fatalf("the step %d of SubProof at %d shares memory, in%s", n, k, describe(list))
+			t.Fatalf("the step %d of %s shares memory, in%s", n, what, describe(want))
 		}
 	}
-	got, _ := impl.SubProof(list, k)
+	got, _ := call()
 	for whole, n := got[:cap(got)], 0; n < cap(got); n++ {
 		whole[n] = step(spare, spare, spare, 1, 2)
 	}
-	if got, _ := impl.SubProof(list, k); changed() || !sameSteps(got, want) {
-		t.Fatalf("the list of SubProof at %d shares memory, in%s", k, describe(list))
+	if got, _ := call(); changed() || !sameSteps(got, want) {
+		t.Fatalf("the list of %s shares memory, in%s", what, describe(want))
 	}
 }
 
@@ -612,7 +615,8 @@ func TestProofsUnchangedAndUnshared(t *testing.T) {
 		}
 		checkSeqsUnshared(t, guardedList, changed)
 		for k := range int64(len(list)) {
-			checkPartUnshared(t, guardedList, k, changed)
+			part := func() ([]impl.Step, bool) { return impl.SubProof(guardedList, k) }
+			checkStepsUnshared(t, fmt.Sprint("SubProof at ", k), part, partOf(list, k), changed)
 		}
 		conclusionOf := func(impl.Seq) impl.Seq { q, _ := impl.ConclusionOf(guardedList); return q }
 		checkSeqUnshared(t, "ConclusionOf", conclusionOf, impl.Seq{}, changed)
@@ -637,7 +641,8 @@ func TestStepsWithOneForm(t *testing.T) {
 	}
 	checkSeqsUnshared(t, list, changed)
 	for k := range int64(len(list)) {
-		checkPartUnshared(t, list, k, changed)
+		part := func() ([]impl.Step, bool) { return impl.SubProof(list, k) }
+		checkStepsUnshared(t, fmt.Sprint("SubProof at ", k), part, partOf(list, k), changed)
 	}
 }
 
