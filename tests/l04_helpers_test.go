@@ -297,12 +297,14 @@ func sameSeqs(a, b []impl.Seq) bool {
 	return slices.EqualFunc(a, b, func(x, y impl.Seq) bool { return sameForms(x.Forms, y.Forms) })
 }
 
-// growth is a list of correct steps that grows; open are the steps that are no premise yet.
+// growth is a list of correct steps that grows; open are the steps that are no premise yet. If it is plain, the formulas in its steps have
+// atoms, tensors and pars only.
 type growth struct {
 	seed  *uint64
 	steps []impl.Step
 	ends  []impl.Seq
 	open  []int64
+	plain bool
 }
 
 // add appends a step if it is correct and its premises are open.
@@ -325,6 +327,9 @@ func (g *growth) openStep() int64 { return g.open[choose(g.seed, uint64(len(g.op
 
 // form returns a formula for the field Form, most often a short one.
 func (g *growth) form() []int64 {
+	if g.plain {
+		return multTree(1+2*choose(g.seed, 1+uint64(choose(g.seed, 4))), g.seed).list()
+	}
 	if choose(g.seed, 4) > 0 {
 		return []int64{[]int64{1, -1, 2, 13}[choose(g.seed, 4)]}
 	}
@@ -440,10 +445,14 @@ var balancedRules = []int64{ax, cut, tensor, par, one, bot, swap}
 
 // grownProof returns a valid proof with some of the rules, whose steps and fields follow from seed.
 func grownProof(rules []int64, seed *uint64) []impl.Step {
-	g := &growth{seed: seed}
-	for range 10 + choose(seed, 80) {
-		rule := rules[choose(seed, uint64(len(rules)))]
-		if len(g.open) == 0 || choose(seed, 6) == 0 {
+	return (&growth{seed: seed}).grown(rules)
+}
+
+// grown lets steps with some of the rules grow, and returns the greatest proof among them.
+func (g *growth) grown(rules []int64) []impl.Step {
+	for range 10 + choose(g.seed, 80) {
+		rule := rules[choose(g.seed, uint64(len(rules)))]
+		if len(g.open) == 0 || choose(g.seed, 6) == 0 {
 			rule = ax
 		}
 		g.grow(rule)
