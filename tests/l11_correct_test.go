@@ -25,8 +25,9 @@ func checkEveryTree(t *testing.T, n impl.Net) {
 
 // The net of every multiplicative proof with at most ten par links is correct, and every graph of it is a tree.
 func TestNetsOfProofsAreCorrect(t *testing.T) {
-	seed, rules, pars := uint64(111), map[int64]int{}, map[int64]int{}
-	for _, list := range someMultProofs() {
+	seed, proofs := uint64(111), someMultProofs()
+	checkVariety(t, proofs)
+	for _, list := range proofs {
 		n, ok := impl.NetOf(list)
 		if !ok || len(impl.ParLinks(n)) > 10 {
 			t.Fatalf("no net with at most ten par links: %v of%s", ok, describe(list))
@@ -35,36 +36,19 @@ func TestNetsOfProofsAreCorrect(t *testing.T) {
 			t.Fatalf("the net is not correct, of%s", describe(list))
 		}
 		checkEveryTree(t, n)
-		for _, s := range list {
-			rules[s.Rule]++
-		}
-		pars[int64(len(impl.ParLinks(n)))]++
-	}
-	for _, rule := range multRules {
-		if rules[rule] < 300 {
-			t.Fatal("too few steps", rules)
-		}
-	}
-	if pars[0] < 20 || pars[1] < 50 || pars[4] < 30 || pars[7] < 5 {
-		t.Fatal("too few par links", pars)
 	}
 }
 
 // The nets of the parts of a proof are correct.
 func TestNetsOfPartsAreCorrect(t *testing.T) {
-	parts := 0
-	for _, list := range someMultProofs() {
-		for k := range int64(len(list)) {
-			part, _ := impl.SubProof(list, k)
-			n, ok := impl.NetOf(part)
-			if index, fault := impl.FailingSwitching(n); !ok || index != -1 || fault != 0 || !impl.CorrectBySwitchings(n) {
-				t.Fatalf("FailingSwitching = %d, %d of the part %d of%s", index, fault, k, describe(list))
-			}
-			parts++
+	nets := netsOfParts()
+	for _, n := range nets {
+		if index, fault := impl.FailingSwitching(n); index != -1 || fault != 0 || !impl.CorrectBySwitchings(n) {
+			t.Fatalf("FailingSwitching = %d, %d of%s", index, fault, describeNet(n))
 		}
 	}
-	if parts < 5000 {
-		t.Fatal("too few parts", parts)
+	if len(nets) < 5000 {
+		t.Fatal("too few parts", len(nets))
 	}
 }
 
@@ -202,11 +186,7 @@ func TestVerdictsOfAllNetsOfTwoAxioms(t *testing.T) {
 func TestVerdictsOfNetsByProofs(t *testing.T) {
 	seed, found := uint64(117), map[bool]int{}
 	for range 1500 {
-		n := axioms(slices.Repeat([]tree{leaf(1), leaf(-1)}, 2)[:1+choose(&seed, 4)]...)
-		for range 3 + choose(&seed, 8) {
-			n = joinedOnce(n, allKinds[1+choose(&seed, 3)], &seed)
-		}
-		n, _ = wantRenumbered(n, somePlaces(len(n.Wires), &seed), somePlaces(len(n.Links), &seed))
+		n := smallGrownNet(&seed)
 		got := impl.CorrectBySwitchings(n)
 		if found[got]++; got != hasProof(n) {
 			t.Fatalf("CorrectBySwitchings = %v of%s", got, describeNet(n))
@@ -217,54 +197,24 @@ func TestVerdictsOfNetsByProofs(t *testing.T) {
 	}
 }
 
-// correctNets are nets of proofs with at most 20 wires.
-func correctNets() []impl.Net {
-	var out []impl.Net
-	for _, list := range someMultProofs() {
-		if n, ok := wantNetOf(list); ok && len(n.Wires) <= 20 {
-			out = append(out, n)
-		}
-	}
-	return out
-}
-
-// eachPair calls visit with every pair of numbers below count.
-func eachPair(count int, visit func(i, j int64)) {
-	for i := range int64(count) {
-		for j := range int64(count) {
-			visit(i, j)
-		}
-	}
-}
-
 // Two correct nets side by side are split; a tensor or a cut between them makes them one correct net, and one within either of them a cycle.
 func TestLinksBetweenCorrectNets(t *testing.T) {
-	nets, found := correctNets(), map[[2]int64]int{}
-	for k, a := range nets {
-		b := nets[(k*5+3)%len(nets)]
-		if k%2 == 0 && len(a.Concl) > 0 {
-			// There are cuts between these nets.
-			b, _ = impl.AxiomNet(a.Wires[a.Concl[0]])
-		}
-		both, _ := impl.UnionNet(a, b)
+	found := map[[2]int64]int{}
+	eachTwoCorrectNets(func(a, _, both impl.Net) {
 		if index, fault := impl.FailingSwitching(both); index != 0 || fault != faultSplit {
 			t.Fatalf("FailingSwitching = %d, %d of two nets:%s", index, fault, describeNet(both))
 		}
-		eachPair(len(both.Concl), func(i, j int64) {
+		eachLinked(both, func(kind, i, j int64, n impl.Net) {
 			want := [2]int64{0, faultCycle}
 			if (i < int64(len(a.Concl))) != (j < int64(len(a.Concl))) {
 				want = [2]int64{-1, faultNone}
 			}
-			for _, kind := range []int64{cut, tensor} {
-				if n, ok := impl.LinkNet(both, kind, i, j); ok {
-					if index, fault := impl.FailingSwitching(n); [2]int64{index, fault} != want {
-						t.Fatalf("FailingSwitching = %d, %d after a link of the kind %d, of%s", index, fault, kind, describeNet(n))
-					}
-					found[[2]int64{kind, want[1]}]++
-				}
+			if index, fault := impl.FailingSwitching(n); kind != par && [2]int64{index, fault} != want {
+				t.Fatalf("FailingSwitching = %d, %d after a link of the kind %d, of%s", index, fault, kind, describeNet(n))
 			}
+			found[[2]int64{kind, want[1]}]++
 		})
-	}
+	})
 	for _, kind := range []int64{cut, tensor} {
 		if found[[2]int64{kind, faultNone}] < 200 || found[[2]int64{kind, faultCycle}] < 100 {
 			t.Fatal("too few links", found)
@@ -276,19 +226,15 @@ func TestLinksBetweenCorrectNets(t *testing.T) {
 func TestLinksWithinCorrectNets(t *testing.T) {
 	found := map[int64]int{}
 	for _, a := range correctNets() {
-		eachPair(len(a.Concl), func(i, j int64) {
-			for _, kind := range []int64{cut, tensor, par} {
-				want := [2]int64{0, faultCycle}
-				if kind == par {
-					want = [2]int64{-1, faultNone}
-				}
-				if n, ok := impl.LinkNet(a, kind, i, j); ok {
-					if index, fault := impl.FailingSwitching(n); [2]int64{index, fault} != want {
-						t.Fatalf("FailingSwitching = %d, %d after a link of the kind %d, of%s", index, fault, kind, describeNet(n))
-					}
-					found[kind]++
-				}
+		eachLinked(a, func(kind, _, _ int64, n impl.Net) {
+			want := [2]int64{0, faultCycle}
+			if kind == par {
+				want = [2]int64{-1, faultNone}
 			}
+			if index, fault := impl.FailingSwitching(n); [2]int64{index, fault} != want {
+				t.Fatalf("FailingSwitching = %d, %d after a link of the kind %d, of%s", index, fault, kind, describeNet(n))
+			}
+			found[kind]++
 		})
 	}
 	if found[cut] < 50 || found[tensor] < 1000 || found[par] < 1000 {

@@ -103,13 +103,72 @@ func leafyProof(leaves int, seed *uint64) []impl.Step {
 // joinedInAllWays calls visit with every net that links of all kinds make of a net, one after the other, and with the net itself.
 func joinedInAllWays(n impl.Net, visit func(impl.Net)) {
 	visit(n)
-	for i := range int64(len(n.Concl)) {
-		for j := range int64(len(n.Concl)) {
-			for _, kind := range []int64{cut, tensor, par} {
-				if out, ok := wantLinked(n, kind, i, j); ok {
-					joinedInAllWays(out, visit)
-				}
-			}
+	eachLinked(n, func(_, _, _ int64, linked impl.Net) { joinedInAllWays(linked, visit) })
+}
+
+// netsOfParts returns the nets of all parts of multiplicative proofs.
+func netsOfParts() []impl.Net {
+	var out []impl.Net
+	for _, list := range someMultProofs() {
+		for k := range int64(len(list)) {
+			part, _ := impl.SubProof(list, k)
+			n, _ := impl.NetOf(part)
+			out = append(out, n)
 		}
 	}
+	return out
+}
+
+// correctNets are nets of proofs with at most 20 wires.
+func correctNets() []impl.Net {
+	var out []impl.Net
+	for _, list := range someMultProofs() {
+		if n, ok := wantNetOf(list); ok && len(n.Wires) <= 20 {
+			out = append(out, n)
+		}
+	}
+	return out
+}
+
+// smallGrownNet returns a net with up to four axioms and ten other links, which follow from seed, in any order.
+func smallGrownNet(seed *uint64) impl.Net {
+	n := axioms(slices.Repeat([]tree{leaf(1), leaf(-1)}, 2)[:1+choose(seed, 4)]...)
+	for range 3 + choose(seed, 8) {
+		n = joinedOnce(n, allKinds[1+choose(seed, 3)], seed)
+	}
+	n, _ = wantRenumbered(n, somePlaces(len(n.Wires), seed), somePlaces(len(n.Links), seed))
+	return n
+}
+
+// eachPair calls visit with every pair of numbers below count.
+func eachPair(count int, visit func(i, j int64)) {
+	for i := range int64(count) {
+		for j := range int64(count) {
+			visit(i, j)
+		}
+	}
+}
+
+// eachTwoCorrectNets calls visit with pairs of correct nets, and with both side by side. There are cuts between many of them.
+func eachTwoCorrectNets(visit func(a, b, both impl.Net)) {
+	nets := correctNets()
+	for k, a := range nets {
+		b := nets[(k*5+3)%len(nets)]
+		if k%2 == 0 && len(a.Concl) > 0 {
+			b, _ = wantAxiom(a.Wires[a.Concl[0]])
+		}
+		both, _ := wantUnion(a, b)
+		visit(a, b, both)
+	}
+}
+
+// eachLinked calls visit with every net that one more link makes of a net, with its kind and the positions of the conclusions that it joins.
+func eachLinked(n impl.Net, visit func(kind, i, j int64, linked impl.Net)) {
+	eachPair(len(n.Concl), func(i, j int64) {
+		for _, kind := range []int64{cut, tensor, par} {
+			if linked, ok := wantLinked(n, kind, i, j); ok {
+				visit(kind, i, j, linked)
+			}
+		}
+	})
 }

@@ -311,3 +311,25 @@ func checkNoSwitchings(t *testing.T, n impl.Net) {
 		t.Fatalf("FailingSwitching = %d, %d of%s", index, fault, describeNet(n))
 	}
 }
+
+// checkVariety fails unless multiplicative proofs have many steps with every rule, and few and many par links.
+func checkVariety(t *testing.T, proofs [][]impl.Step) {
+	t.Helper()
+	rules, pars := map[int64]int{}, map[int]int{}
+	for _, list := range proofs {
+		count := map[int64]int{}
+		for _, s := range list {
+			rules[s.Rule]++
+			count[s.Rule]++
+		}
+		pars[count[par]]++
+	}
+	for _, rule := range multRules {
+		if rules[rule] < 300 {
+			t.Fatal("too few steps", rules)
+		}
+	}
+	if pars[0] < 20 || pars[1] < 50 || pars[4] < 30 || pars[7] < 5 {
+		t.Fatal("too few par links", pars)
+	}
+}
