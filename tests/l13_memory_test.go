@@ -118,23 +118,32 @@ func TestParsingWithOneList(t *testing.T) {
 	}
 }
 
-// Lists of many elements and extreme numbers: every function returns, and there are no results for what is no net or no firing sequence.
-func TestParsingOfGreatArguments(t *testing.T) {
-	const many = 1 << 18
+// greatNets are nets with so many elements in one of their lists or in all of them, or with extreme numbers.
+func greatNets(many int) []impl.Net {
 	one := netOf(parOfAxiom)
 	long := slices.Repeat([]int64{12}, many)
-	for _, n := range []impl.Net{
+	return []impl.Net{
 		{Wires: make([][]int64, many)}, {Links: make([]impl.Link, many)}, {Concl: make([]int64, many)}, {Wires: slices.Repeat(one.Wires, many)}, {Links: slices.Repeat([]impl.Link{{Kind: par}}, many)}, {Links: slices.Repeat([]impl.Link{{Kind: ax}}, 48)},
 		{Wires: one.Wires, Links: slices.Repeat(one.Links, many), Concl: one.Concl}, {Wires: one.Wires, Links: one.Links, Concl: slices.Repeat(one.Concl, many)}, {Wires: [][]int64{long, long, long}, Links: one.Links, Concl: one.Concl},
 		{Wires: slices.Repeat(one.Wires, many), Links: slices.Repeat(one.Links, many), Concl: slices.Repeat(one.Concl, many)}, {Wires: one.Wires, Links: slices.Repeat([]impl.Link{one.Links[1]}, 48), Concl: one.Concl},
 		{Wires: one.Wires, Links: []impl.Link{{Kind: par, A: math.MinInt64, B: math.MaxInt64, C: math.MinInt64}}, Concl: one.Concl}, {Wires: one.Wires, Links: one.Links, Concl: []int64{math.MaxInt64}},
-	} {
+	}
+}
+
+// greatLists are lists of so many links, or with an extreme number.
+func greatLists(many int) [][]int64 {
+	return [][]int64{make([]int64, many), slices.Repeat([]int64{0, 1}, many), slices.Repeat([]int64{-1}, many), slices.Repeat([]int64{math.MinInt64}, many), slices.Repeat([]int64{math.MaxInt64}, many), inOrder(many), {math.MaxInt64}, {math.MinInt64}, {0, math.MaxInt64}, {0, math.MinInt64}}
+}
+
+// Lists of many elements and extreme numbers: every function returns, and there are no results for what is no net or no firing sequence.
+func TestParsingOfGreatArguments(t *testing.T) {
+	const many = 1 << 18
+	for _, n := range greatNets(many) {
 		checkNoParsing(t, n)
 		checkNotFired(t, n, slices.Repeat([]int64{0, 1}, many))
 	}
-	great := [][]int64{make([]int64, many), slices.Repeat([]int64{0, 1}, many), slices.Repeat([]int64{-1}, many), slices.Repeat([]int64{math.MinInt64}, many), slices.Repeat([]int64{math.MaxInt64}, many), inOrder(many), {math.MaxInt64}, {math.MinInt64}, {0, math.MaxInt64}, {0, math.MinInt64}}
-	for _, n := range []impl.Net{one, {}, netOf(tensorOfTwo), parChains(10), parChains(22), cutChain(24), cutRing(24)} {
-		for _, fired := range great {
+	for _, n := range []impl.Net{netOf(parOfAxiom), {}, netOf(tensorOfTwo), parChains(10), parChains(22), cutChain(24), cutRing(24)} {
+		for _, fired := range greatLists(many) {
 			checkNotFired(t, n, fired)
 			checkNotFired(t, n, append(impl.FiringOrder(n), fired...))
 		}
